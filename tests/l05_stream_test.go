@@ -287,7 +287,7 @@ func TestStream(t *testing.T) {
 	}
 }
 
-// Promise 5, at each length that a text may have.
+// Promise 5, at each length around a block, the first and the last ones, and each seventh between them.
 func TestStreamedTwiceItIsWhatItWas(t *testing.T) {
 	all, key, nonce := someBytes(impl.MaxHash), someBytes(32), someBytes(12)
 	for many := range impl.MaxHash + 1 {
