@@ -321,14 +321,18 @@ func TestFieldInvOfNought(t *testing.T) {
 	}
 }
 
+// soManyBytes are bytes of their own, nothing but bytes 0, and the beginning of more.
+func soManyBytes(many int) [][]byte {
+	return [][]byte{someBytes(many), make([]byte, many, 200), someBytes(200)[:many]}
+}
+
 func TestFieldOfOtherSizes(t *testing.T) {
 	right := someBytes(32)
 	for many := range 100 {
 		if many == 32 {
 			continue
 		}
-		// Bytes of their own, the beginning of more, and nothing but bytes 0.
-		for _, wrong := range [][]byte{someBytes(many), make([]byte, many, 200), someBytes(200)[:many]} {
+		for _, wrong := range soManyBytes(many) {
 			for _, f := range fieldTwo {
 				for _, c := range [][2][]byte{{wrong, right}, {right, wrong}, {wrong, wrong}, {nil, wrong}, {wrong, nil}} {
 					if got := f.got(c[0], c[1]); len(got) != 0 {
@@ -397,6 +401,20 @@ func TestFieldLeavesItsArgumentsAlone(t *testing.T) {
 	}
 }
 
+// checkAnew writes over an answer, and over the room behind it, which is not to be seen in the next one.
+func checkAnew(t *testing.T, name string, ask func() []byte) {
+	t.Helper()
+	first := ask()
+	kept := bytes.Clone(first)
+	whole := first[:cap(first)]
+	for i := range whole {
+		whole[i] ^= 255
+	}
+	if again := ask(); !bytes.Equal(again, kept) {
+		t.Errorf("%s, asked again, = %x, want %x", name, again, kept)
+	}
+}
+
 func TestFieldAnswersAnewEachTime(t *testing.T) {
 	a, b := someBytes(32), impl.FieldNum(1)
 	asks := map[string]func() []byte{
@@ -412,15 +430,7 @@ func TestFieldAnswersAnewEachTime(t *testing.T) {
 		asks[f.name+" of 0"] = func() []byte { return f.got(a, impl.FieldNum(0)) }
 	}
 	for name, ask := range asks {
-		first := ask()
-		kept := bytes.Clone(first)
-		whole := first[:cap(first)]
-		for i := range whole {
-			whole[i] ^= 255
-		}
-		if again := ask(); !bytes.Equal(again, kept) {
-			t.Errorf("%s, asked again, = %x, want %x", name, again, kept)
-		}
+		checkAnew(t, name, ask)
 		if !bytes.Equal(a, someBytes(32)) || !bytes.Equal(b, thirtyTwo(big.NewInt(1))) {
 			t.Fatalf("%s shares memory with what it was given", name)
 		}
