@@ -100,6 +100,15 @@ func Great(n int, many int) []byte {
 	return b
 }
 
+// greatNumber wants fewer bytes than an int has, lest a number come out below 0.
+func greatNumber(b []byte) int {
+	n := 0
+	for _, x := range b {
+		n = n<<8 | int(x)
+	}
+	return n
+}
+
 // Split goes by bytes, not by runes: by may be a byte inside of a rune.
 func Split(s string, by byte) []string {
 	var parts []string
