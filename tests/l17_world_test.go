@@ -837,7 +837,9 @@ func TestKindsThatAreNone(t *testing.T) {
 	}
 }
 
-func TestWorldsWithOneFault(t *testing.T) {
+// worldFaults each make a busy world one that is not right.
+func worldFaults(t *testing.T) map[string]func(w *impl.World) {
+	t.Helper()
 	letter := letterFor(t, 1, alike(2), 0, "x")
 	faults := map[string]func(w *impl.World){
 		"nothing":               func(w *impl.World) { *w = impl.World{} },
@@ -865,7 +867,11 @@ func TestWorldsWithOneFault(t *testing.T) {
 	for _, count := range []int{-1, 0, 2, 3, 5, 12, 13, 4 + 256, 4 + 1<<32, -4, math.MinInt, math.MaxInt} {
 		faults[fmt.Sprint("count ", count)] = func(w *impl.World) { w.Count = count }
 	}
-	for what, fault := range faults {
+	return faults
+}
+
+func TestWorldsWithOneFault(t *testing.T) {
+	for what, fault := range worldFaults(t) {
 		w := busyWorld(t)
 		if w.Count != 4 {
 			t.Fatalf("a busy one is %s", shownWorld(w))
@@ -898,8 +904,9 @@ func TestWorldsWithTooMany(t *testing.T) {
 	checkNoWorld(t, "many are on their way", worldOf(t, 0, 500))
 }
 
-// A wire that is wrong in one thing is found at each place.
-func TestWorldsWithAWrongWire(t *testing.T) {
+// wrongWires are each wrong in one thing.
+func wrongWires(t *testing.T) map[string]impl.Wire {
+	t.Helper()
 	wrong := map[string]impl.Wire{
 		"to the post with a byte":        {ToPost: true, Item: itemOf(routeA, 1, "x"), Bytes: []byte{0}},
 		"to the post with a letter":      {ToPost: true, Item: itemOf(routeA, 1, "x"), Bytes: letterFor(t, 1, alike(2), 0, "x")},
@@ -922,7 +929,12 @@ func TestWorldsWithAWrongWire(t *testing.T) {
 	for _, many := range noByteSizes {
 		wrong[fmt.Sprint("to the reader with bytes ", many)] = impl.Wire{Bytes: make([]byte, many)}
 	}
-	for what, x := range wrong {
+	return wrong
+}
+
+// A wire that is wrong in one thing is found at each place.
+func TestWorldsWithAWrongWire(t *testing.T) {
+	for what, x := range wrongWires(t) {
 		for _, a := range []int{0, 3, 11} {
 			w := worldOf(t, 1, 11)
 			w.Net = slices.Insert(w.Net, a, x)
@@ -939,8 +951,8 @@ func TestWorldsWithAWrongWire(t *testing.T) {
 	}
 }
 
-// A sent one that is wrong in one thing is found at each place.
-func TestWorldsWithAWrongSent(t *testing.T) {
+// wrongSent are each wrong in one thing.
+func wrongSent() map[string]impl.Sent {
 	right := sentOf(1)[0]
 	wrong := map[string]impl.Sent{}
 	with := func(what string, turn func(s *impl.Sent)) {
@@ -961,7 +973,12 @@ func TestWorldsWithAWrongSent(t *testing.T) {
 		with(fmt.Sprint("epoch ", epoch), func(s *impl.Sent) { s.Epoch = epoch })
 	}
 	with("nothing", func(s *impl.Sent) { *s = impl.Sent{} })
-	for what, s := range wrong {
+	return wrong
+}
+
+// A sent one that is wrong in one thing is found at each place.
+func TestWorldsWithAWrongSent(t *testing.T) {
+	for what, s := range wrongSent() {
 		for _, a := range []int{0, 5, 11} {
 			w := worldOf(t, 12, 1)
 			w.Sent[a] = s
@@ -981,6 +998,7 @@ func TestWorldsWithAWrongSent(t *testing.T) {
 		}
 	}
 	// That two are alike, or that none is a letter, is no fault.
+	right := sentOf(1)[0]
 	checkWorldOk(t, "two alike", impl.World{Seed: alike(1), Count: 2, Sent: []impl.Sent{right, right}, Reader: impl.Reader{Seed: alike(2)}}, true)
 }
 
